@@ -156,7 +156,7 @@ func TestCountsOfDeepTrees(t *testing.T) {
 
 // Trees that are far too deep are answered with a stack that is far too small for a function that goes down to their leaves.
 func TestNoTreeIsTooDeepForTheStack(t *testing.T) {
-	const deep = 200000
+	const deep = 100000
 	defer debug.SetMaxStack(debug.SetMaxStack(1 << 20))
 	for i, x := range typeChains(deep) {
 		if RightType(x) || !SameType(x, x) || SameType(x, typeChains(1)[0]) {

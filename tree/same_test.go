@@ -109,7 +109,7 @@ func TestOrderOfSameness(t *testing.T) {
 
 func TestSameTreesCountTheSame(t *testing.T) {
 	m := newMaker(4)
-	for range 15 {
+	for range 8 {
 		p, e, l, ty := m.pat(3), m.expr(3), m.decls(2, true), m.typ(3)
 		q, f := moved(m, p), moved(m, e)
 		if !slices.Equal(Binds(p), Binds(q)) || Size(e) != Size(f) || Deep(e) != Deep(f) {
